@@ -1,29 +1,26 @@
 package op
 
-import "skylark/api"
-
-func number(n int) api.Field {
-	return api.Field{N: int64(n)}
-}
-
-func text(s string) api.Field {
-	return api.Field{Text: true, S: s}
-}
+import (
+	"skylark/api"
+	"skylark/fields"
+)
 
 func requestFields(r api.Request) []api.Field {
-	list := []api.Field{number(r.Client), number(r.Seq), number(len(r.Ops))}
+	list := []api.Field{fields.Number(r.Client), fields.Number(r.Seq), fields.Number(len(r.Ops))}
 	for _, x := range r.Ops {
-		list = append(list, number(x.Kind), text(x.Key), text(x.Val), number(x.Stamp), number(x.Test), number(x.Most))
+		list = append(list, fields.Number(x.Kind), fields.Text(x.Key), fields.Text(x.Val))
+		list = append(list, fields.Number(x.Stamp), fields.Number(x.Test), fields.Number(x.Most))
 	}
 	return list
 }
 
 func replyFields(r api.Reply) []api.Field {
-	list := []api.Field{number(r.Client), number(r.Seq), number(r.Fault.At), number(int(r.Fault.Code)), number(len(r.Results))}
+	list := []api.Field{fields.Number(r.Client), fields.Number(r.Seq)}
+	list = append(list, fields.Number(r.Fault.At), fields.Number(int(r.Fault.Code)), fields.Number(len(r.Results)))
 	for _, x := range r.Results {
-		list = append(list, number(int(x.Code)), number(x.Stamp), text(x.Val), number(len(x.Rows)))
+		list = append(list, fields.Number(int(x.Code)), fields.Number(x.Stamp), fields.Text(x.Val), fields.Number(len(x.Rows)))
 		for _, row := range x.Rows {
-			list = append(list, text(row.Key), number(row.Stamp), text(row.Val))
+			list = append(list, fields.Text(row.Key), fields.Number(row.Stamp), fields.Text(row.Val))
 		}
 	}
 	return list
