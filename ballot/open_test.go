@@ -48,8 +48,6 @@ func TestOpenReads(t *testing.T) {
 		{stand(1, -1) + stand(1, -1) + stand(1, 1), of(1, 1)},
 		{stand(1, 2) + stand(5, -1), of(5, -1)},
 		{stand(1, 2) + stand(5, 0), of(5, 0)},
-		{stand(0, -1), of(0, -1)},
-		{stand(0, -1) + stand(1, 1), of(1, 1)},
 		{stand(api.MaxTerm, 1), of(api.MaxTerm, 1)},
 		{stand(api.MaxTerm, -1) + put(api.MaxTerm, "x"), of(api.MaxTerm, -1, entry(api.MaxTerm, "x"))},
 		{stand(3, -1) + put(1, "a") + put(1, "") + put(3, "b"), of(3, -1, entry(1, "a"), entry(1, ""), entry(3, "b"))},
@@ -100,10 +98,31 @@ func TestOpenCorruptOrder(t *testing.T) {
 			refused(t, with(t, begun+wrong+behind), 3, api.ErrCorrupt)
 		}
 	}
-	for _, wrong := range []string{put(1, "a"), put(0, "a"), gone(1), gone(0), stand(-1, -1), stand(0, -2), stand(0, 3)} {
+	for _, wrong := range []string{put(1, "a"), put(0, "a"), gone(1), gone(0), stand(-1, -1), stand(api.MaxTerm+1, -1)} {
 		refused(t, with(t, wrong), 3, api.ErrCorrupt)
 	}
 	refused(t, with(t, stand(5, -1)+put(5, "a")+gone(1)+gone(1)), 3, api.ErrCorrupt)
+}
+
+// Promise 15.1: the term 0 is none that a list can tell, whatever its vote, be it the first list or a later one, and whatever comes behind; the ballot's own 0 at first is that no list told one.
+func TestOpenTermZero(t *testing.T) {
+	for _, nodes := range []int{1, 3, api.MaxNodes} {
+		for vote := -2; vote <= nodes; vote++ {
+			zero := stand(0, vote)
+			for _, behind := range []string{"", "z", zero, stand(1, -1), stand(1, 0), stand(api.MaxTerm, 0), put(1, "a"), gone(1)} {
+				refused(t, with(t, zero+behind), nodes, api.ErrCorrupt)
+				refused(t, with(t, stand(1, -1)+zero+behind), nodes, api.ErrCorrupt)
+			}
+			for n := range len(zero) {
+				d := with(t, zero[:n])
+				of(0, -1).is(t, opened(t, d, nodes))
+				onDisk(t, d, "ballot", "")
+			}
+		}
+	}
+	d := with(t, stand(0, -1))
+	must(t, d.Fuse(0))
+	refused(t, d, 3, api.ErrCorrupt)
 }
 
 // Promise 15.1: a frame of anything else but one of the three lists, be it the first or a later one.
@@ -220,7 +239,7 @@ type reader struct {
 }
 
 func (r *reader) stand(term, vote int) {
-	r.wrong = r.wrong || term < r.term || term > 1<<30 || vote < -1 || vote >= r.nodes
+	r.wrong = r.wrong || term < 1 || term < r.term || term > 1<<30 || vote < -1 || vote >= r.nodes
 	r.wrong = r.wrong || term == r.term && r.vote >= 0 && vote != r.vote
 	r.term, r.vote = term, vote
 }
@@ -249,7 +268,7 @@ func TestOpenDrawn(t *testing.T) {
 		for range draw.Intn(12) {
 			switch draw.Intn(4) {
 			case 0:
-				term, vote := r.term+draw.Intn(3), draw.Intn(r.nodes+1)-1
+				term, vote := max(r.term+draw.Intn(3), 1), draw.Intn(r.nodes+1)-1
 				if draw.Intn(12) == 0 {
 					term, vote = term-draw.Intn(2), draw.Intn(r.nodes+3)-2
 				} else if term == r.term && r.vote >= 0 {

@@ -37,10 +37,9 @@ func (r *reading) takeAll(file string) (end int, ok bool) {
 func (r *reading) take(list *fields.Reader) bool {
 	mark, n := list.Number(), list.Number()
 	switch {
+	case mark == markStanding && !isTerm(n):
+		return false
 	case mark == markStanding && n > r.term:
-		if n > api.MaxTerm {
-			return false
-		}
 		// A new term has no vote yet, and then takes what is told as one that goes on does.
 		r.term, r.vote = n, nobody
 		fallthrough
