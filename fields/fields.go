@@ -34,14 +34,19 @@ func (r *Reader) Text() string {
 	return r.next(true).S
 }
 
-// Count takes a number that says how many of something follow. More than may be are none, so that a great number is never counted up to.
-func (r *Reader) Count(most int) int {
+// Within takes a number from least to most. Any other one is none.
+func (r *Reader) Within(least, most int) int {
 	n := r.Number()
-	if n < 0 || n > most {
+	if n < least || n > most {
 		r.wrong = true
 		return 0
 	}
 	return n
+}
+
+// Count takes a number that says how many of something follow. More than may be are none, so that a great number is never counted up to.
+func (r *Reader) Count(most int) int {
+	return r.Within(0, most)
 }
 
 // IsText tells whether the next field is a text.

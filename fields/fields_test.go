@@ -90,6 +90,28 @@ func TestCount(t *testing.T) {
 	}
 }
 
+// Promise 16.3: a number is within its bounds, both of which may be; any other is none, and wrong, even where it could be read as 0.
+func TestWithin(t *testing.T) {
+	for _, x := range []struct {
+		n, least, most, want int
+		done                 bool
+	}{
+		{2, 2, 5, 2, true}, {5, 2, 5, 5, true}, {3, 2, 5, 3, true}, {-3, -3, -3, -3, true}, {math.MinInt, math.MinInt, math.MaxInt, math.MinInt, true}, {math.MaxInt, 0, math.MaxInt, math.MaxInt, true},
+		{1, 2, 5, 0, false}, {6, 2, 5, 0, false}, {0, 1, 5, 0, false}, {0, -5, -1, 0, false}, {math.MinInt, 2, 5, 0, false}, {math.MaxInt, 2, 5, 0, false},
+	} {
+		r := fields.Read([]api.Field{fields.Number(x.n)})
+		if got := r.Within(x.least, x.most); got != x.want || r.IsDone() != x.done {
+			t.Error(x, got, r)
+		}
+	}
+	for _, none := range [][]api.Field{nil, {fields.Text("")}} {
+		r := fields.Read(none)
+		if got := r.Within(-1, 1); got != 0 || r.IsDone() {
+			t.Error(got, r)
+		}
+	}
+}
+
 // Rule R4: a list that is read stays as it is.
 func TestListStays(t *testing.T) {
 	l := list()
